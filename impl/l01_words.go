@@ -110,6 +110,23 @@ func wordKeeping(w []int64, kept func(chord int64) bool) []int64 {
 	return normalOf(left)
 }
 
+// wordWithout returns a word with a chord deleted.
+func wordWithout(w []int64, deleted int64) []int64 {
+	return wordKeeping(w, func(chord int64) bool { return chord != deleted })
+}
+
+// canJoin reports whether the joined word of two words has at most MaxChords chords.
+func canJoin(a, b []int64) bool { return chordsOf(a)+chordsOf(b) <= MaxChords }
+
+// joinOf returns the joined word of two words.
+func joinOf(a, b []int64) []int64 {
+	joined := slices.Concat(a, b)
+	for place := len(a); place < len(joined); place++ {
+		joined[place] += chordsOf(a)
+	}
+	return joined
+}
+
 // placesOfChord returns both places of a chord of a word, ascending.
 func placesOfChord(w []int64, chord int64) [2]int {
 	first := slices.Index(w, chord)
@@ -224,7 +241,7 @@ func DeleteChord(w []int64, i int64) ([]int64, int64) {
 	if !isChord(w, i) {
 		return nil, ErrRange
 	}
-	return wordKeeping(w, func(chord int64) bool { return chord != i }), ErrNone
+	return wordWithout(w, i), ErrNone
 }
 
 // AddChord returns w with a chord added at p and q, and ErrNone. Errors: ErrRange also, ahead of
@@ -248,14 +265,10 @@ func JoinWords(a []int64, b []int64) ([]int64, int64) {
 	if !IsWord(a) || !IsWord(b) {
 		return nil, ErrInvalid
 	}
-	if chordsOf(a)+chordsOf(b) > MaxChords {
+	if !canJoin(a, b) {
 		return nil, ErrLimit
 	}
-	joined := slices.Concat(a, b)
-	for place := len(a); place < len(joined); place++ {
-		joined[place] += chordsOf(a)
-	}
-	return joined, ErrNone
+	return joinOf(a, b), ErrNone
 }
 
 // WordOfChords returns the word of some chords, told by an ascending list of different ones in 0..n

@@ -84,6 +84,28 @@ func spoil(list []int64) {
 	}
 }
 
+// wantNothingShared spoils one list of a result at a time: neither the argument, nor another list of
+// the result, nor a later result may change.
+func wantNothingShared(t *testing.T, what string, get func() [][]int64, isUntouched func() bool) {
+	t.Helper()
+	want := get()
+	result := get()
+	for i := range result {
+		spoil(result[i])
+		for k := i + 1; k < len(result); k++ {
+			if !slices.Equal(result[k], want[k]) {
+				t.Fatalf("%s: the lists %d and %d share memory", what, i, k)
+			}
+		}
+	}
+	if !isUntouched() {
+		t.Fatalf("%s changes its argument, what is behind it, or returns its memory", what)
+	}
+	if !slices.EqualFunc(get(), want, slices.Equal) {
+		t.Fatalf("%s keeps its result", what)
+	}
+}
+
 // wantWord checks a word and the code beside it.
 func wantWord(t *testing.T, what string, got []int64, code int64, want []int64) {
 	t.Helper()

@@ -441,28 +441,11 @@ func listsOfLists() map[string]func(w []int64) [][]int64 {
 	}
 }
 
-// TestListsShareNothing spoils one list of a result at a time: neither the argument, nor another
-// list of the result, nor a later result may change.
 func TestListsShareNothing(t *testing.T) {
 	for name, get := range listsOfLists() {
 		for _, w := range wordsUpTo(4)[1:] {
 			list, isUntouched := inRoom(w)
-			want := get(list)
-			result := get(list)
-			for i := range result {
-				spoil(result[i])
-				for k := i + 1; k < len(result); k++ {
-					if !slices.Equal(result[k], want[k]) {
-						t.Fatalf("%s of %s: the lists %d and %d share memory", name, letters(w), i, k)
-					}
-				}
-			}
-			if !isUntouched() {
-				t.Fatalf("%s of %s changes its argument, what is behind it, or returns its memory", name, letters(w))
-			}
-			if !slices.EqualFunc(get(list), want, slices.Equal) {
-				t.Fatalf("%s of %s keeps its result", name, letters(w))
-			}
+			wantNothingShared(t, name+" of "+letters(w), func() [][]int64 { return get(list) }, isUntouched)
 		}
 	}
 }
