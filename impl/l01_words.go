@@ -115,6 +115,12 @@ func wordWithout(w []int64, deleted int64) []int64 {
 	return wordKeeping(w, func(chord int64) bool { return chord != deleted })
 }
 
+// wordWith returns a word with a chord added at p and q, p at most q.
+func wordWith(w []int64, p, q int64) []int64 {
+	added := []int64{chordsOf(w)}
+	return normalOf(slices.Concat(w[:p], added, w[p:q], added, w[q:]))
+}
+
 // canJoin reports whether the joined word of two words has at most MaxChords chords.
 func canJoin(a, b []int64) bool { return chordsOf(a)+chordsOf(b) <= MaxChords }
 
@@ -253,11 +259,10 @@ func AddChord(w []int64, p int64, q int64) ([]int64, int64) {
 	if !isCut(w, p) || !isCut(w, q) || p > q {
 		return nil, ErrRange
 	}
-	added := chordsOf(w)
-	if added >= MaxChords {
+	if chordsOf(w) >= MaxChords {
 		return nil, ErrLimit
 	}
-	return normalOf(slices.Concat(w[:p], []int64{added}, w[p:q], []int64{added}, w[q:])), ErrNone
+	return wordWith(w, p, q), ErrNone
 }
 
 // JoinWords returns the joined word, and ErrNone.

@@ -145,6 +145,11 @@ func inOrder(n int) [][]int64 {
 	return words
 }
 
+// diagramsByDefinition returns all diagrams of n chords, lexicographically.
+func diagramsByDefinition(n int) [][]int64 {
+	return slices.DeleteFunc(inOrder(n), func(w []int64) bool { return !slices.Equal(w, leastByDefinition(w)) })
+}
+
 func TestBorderCirclesAreToldByCrossingRanks(t *testing.T) {
 	for _, w := range wordsUpTo(impl.MaxChords) {
 		n := int64(len(w) / 2)
@@ -282,7 +287,7 @@ func TestPlacesInLists(t *testing.T) {
 
 func TestListsOfDiagrams(t *testing.T) {
 	for n, count := range []int{1, 1, 2, 5, 18, 105} {
-		want := slices.DeleteFunc(inOrder(n), func(w []int64) bool { return !slices.Equal(w, leastByDefinition(w)) })
+		want := diagramsByDefinition(n)
 		if len(want) != count {
 			t.Fatalf("%d diagrams of %d chords", len(want), n)
 		}
