@@ -68,6 +68,16 @@ func chordsOf(w []int64) int64 { return int64(len(w) / 2) }
 // isChord reports whether a word has a chord i.
 func isChord(w []int64, i int64) bool { return i >= 0 && i < chordsOf(w) }
 
+// areChords reports whether a list is an ascending one of different chords of a word.
+func areChords(w []int64, chords []int64) bool {
+	for k, chord := range chords {
+		if !isChord(w, chord) || k > 0 && chords[k-1] >= chord {
+			return false
+		}
+	}
+	return true
+}
+
 // isCut reports whether k is in 0..2 n for a word of n chords.
 func isCut(w []int64, k int64) bool { return k >= 0 && k <= int64(len(w)) }
 
@@ -282,10 +292,8 @@ func WordOfChords(w []int64, chords []int64) ([]int64, int64) {
 	if !IsWord(w) {
 		return nil, ErrInvalid
 	}
-	for k, chord := range chords {
-		if !isChord(w, chord) || k > 0 && chords[k-1] >= chord {
-			return nil, ErrRange
-		}
+	if !areChords(w, chords) {
+		return nil, ErrRange
 	}
 	return wordKeeping(w, func(chord int64) bool { return slices.Contains(chords, chord) }), ErrNone
 }

@@ -39,14 +39,18 @@ func circlesByDefinition(w []int64) int64 {
 	return int64(len(slices.Compact(class)))
 }
 
-// rankByDefinition counts the sets of crossing rows that add up to zeros modulo 2: with the rank r
-// of n rows there are 2 to the power of n - r.
-func rankByDefinition(w []int64) int64 {
+// rankByDefinition is the rank of the crossing rows.
+func rankByDefinition(w []int64) int64 { return rankWithOnes(w, nil) }
+
+// rankWithOnes puts 1 in the crossing rows of some chords at these chords themselves, and counts the
+// sets of rows that add up to zeros modulo 2: with the rank r of n rows there are 2 to the power of
+// n - r.
+func rankWithOnes(w []int64, ones []int64) int64 {
 	n := len(w) / 2
 	rows := make([]int, n)
 	for i := range rows {
 		for k := range n {
-			if i != k && crossByDefinition(w, int64(i), int64(k)) {
+			if i != k && crossByDefinition(w, int64(i), int64(k)) || i == k && slices.Contains(ones, int64(i)) {
 				rows[i] |= 1 << k
 			}
 		}
