@@ -30,11 +30,8 @@ func keyOf(list []int64) wordKey {
 	return wordKey(filled)
 }
 
-// isPaired reports whether a list has at most maxPlaces numbers, each of which stands twice.
-func isPaired(list []int64) bool {
-	if len(list) > maxPlaces {
-		return false
-	}
+// standTwice reports whether each number of a list stands there twice.
+func standTwice(list []int64) bool {
 	times := map[int64]int{}
 	for _, x := range list {
 		times[x]++
@@ -46,6 +43,9 @@ func isPaired(list []int64) bool {
 	}
 	return true
 }
+
+// isPaired reports whether a list has at most maxPlaces numbers, each of which stands twice.
+func isPaired(list []int64) bool { return len(list) <= maxPlaces && standTwice(list) }
 
 // normalOf returns the normal word of a list in which each number stands twice.
 func normalOf(list []int64) []int64 {
