@@ -68,6 +68,15 @@ func spelt(text string) []int64 {
 	return word
 }
 
+// everyOther chooses one element of a list out of as many as step tells.
+func everyOther[T any](list []T, step int) []T {
+	var chosen []T
+	for k := 0; k < len(list); k += step {
+		chosen = append(chosen, list[k])
+	}
+	return chosen
+}
+
 // inRoom returns a copy of a list with spare capacity behind it that is marked, and a function that
 // reports whether the list and the marks are still what they were.
 func inRoom(list []int64) ([]int64, func() bool) {

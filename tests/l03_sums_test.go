@@ -366,15 +366,6 @@ func grown(words [][]int64, most int, sizeOf func(x plain) int) plain {
 	return x
 }
 
-// everyOther returns each step-th word.
-func everyOther(words [][]int64, step int) [][]int64 {
-	var chosen [][]int64
-	for k := 0; k < len(words); k += step {
-		chosen = append(chosen, words[k])
-	}
-	return chosen
-}
-
 func TestDerivativesUpToTheLimit(t *testing.T) {
 	for _, p := range []int64{2, 13} {
 		words := append(everyOther(wordsOfSize(6), 97), wordsUpTo(3)...)

@@ -139,7 +139,7 @@ func TestListsOfAllSmallNumbersAsWebs(t *testing.T) {
 // TestWebsWithOneOtherNumber puts another number at one place of a web, so that an edge stands once,
 // or three times, or is beyond its range.
 func TestWebsWithOneOtherNumber(t *testing.T) {
-	for number, w := range everyOtherWeb(someWebs(), 5) {
+	for number, w := range everyOther(someWebs(), 5) {
 		lists := len(w.Forks) + 1
 		for k := range lists {
 			list := slices.Concat([][]int64{w.Legs}, w.Forks)[k]
@@ -158,7 +158,7 @@ func TestWebsWithOneOtherNumber(t *testing.T) {
 
 // TestEdgesAtTheirBounds gives one edge of a web the numbers 0 and 1000, and those beyond.
 func TestEdgesAtTheirBounds(t *testing.T) {
-	for _, w := range everyOtherWeb(smallWebs(), 7) {
+	for _, w := range everyOther(smallWebs(), 7) {
 		for _, edge := range edgesOfWeb(w) {
 			as := func(other int64) impl.Web {
 				return renumbered(w, func(each int64) int64 {
@@ -207,7 +207,7 @@ func TestWebsOfMaxWebLegsAndForks(t *testing.T) {
 
 func TestResolutionsForNoPrimes(t *testing.T) {
 	for _, p := range notPrimes {
-		for _, w := range append(everyOtherWeb(someWebs(), 61), impl.Web{}, web([]int64{0, 0})) {
+		for _, w := range append(everyOther(someWebs(), 61), impl.Web{}, web([]int64{0, 0})) {
 			wantCode(t, call("ResolveWeb", p, showWeb(w)), sumOutcome(impl.ResolveWeb(p, w)), impl.ErrRange)
 		}
 	}
@@ -253,7 +253,7 @@ func TestEdgesInNoTwoForks(t *testing.T) {
 		}
 	}
 	for _, e := range oddNumbers {
-		for _, w := range everyOtherWeb(smallWebs(), 9) {
+		for _, w := range everyOther(smallWebs(), 9) {
 			wantCode(t, call("ThreeWebs", showWeb(w), e), listOutcome(impl.ThreeWebs(w, e)), impl.ErrState)
 		}
 	}
@@ -319,7 +319,7 @@ func websFrom() map[string]func(w impl.Web) [][]int64 {
 
 func TestWebsShareNothing(t *testing.T) {
 	for name, get := range websFrom() {
-		for _, w := range append(everyOtherWeb(someWebs(), 17), impl.Web{}) {
+		for _, w := range append(everyOther(someWebs(), 17), impl.Web{}) {
 			inside, isUntouched := webInRoom(w)
 			wantNothingShared(t, name+" of "+showWeb(w), func() [][]int64 { return get(inside) }, isUntouched)
 		}
@@ -342,7 +342,7 @@ func TestWebsShareNothing(t *testing.T) {
 // TestNumbersOfWebsChangeNothing takes the functions that return a number, those that fail, and values
 // that are no webs.
 func TestNumbersOfWebsChangeNothing(t *testing.T) {
-	for _, w := range slices.Concat(everyOtherWeb(someWebs(), 13), notWebs()[:30]) {
+	for _, w := range slices.Concat(everyOther(someWebs(), 13), notWebs()[:30]) {
 		inside, isUntouched := webInRoom(w)
 		impl.IsWeb(inside)
 		for _, k := range []int64{0, 1, 2, 7, 900, -1} {
@@ -377,7 +377,7 @@ func TestForksThatShareMemory(t *testing.T) {
 // TestWebsAtTheSameTime opens webs, and values that are none, at the same time.
 func TestWebsAtTheSameTime(t *testing.T) {
 	var callers sync.WaitGroup
-	for _, w := range everyOtherWeb(someWebs(), 29) {
+	for _, w := range everyOther(someWebs(), 29) {
 		want := sumByDefinition(11, resolutionByDefinition(w))
 		for range 5 {
 			callers.Go(func() {

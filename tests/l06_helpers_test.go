@@ -175,20 +175,11 @@ var smallWebs = sync.OnceValue(func() []impl.Web {
 	return list
 })
 
-// everyOtherWeb chooses one web out of as many as step tells.
-func everyOtherWeb(list []impl.Web, step int) []impl.Web {
-	var chosen []impl.Web
-	for k := 0; k < len(list); k += step {
-		chosen = append(chosen, list[k])
-	}
-	return chosen
-}
-
 // someWebs has all small webs, and some of each shape that there is up to MaxWeb legs and forks
 // together. One third of them has edges with gaps between their numbers, another one great numbers.
 var someWebs = sync.OnceValue(func() []impl.Web {
 	list := slices.Concat(smallWebs(), websOfShape(6, 0), websOfShape(5, 1), websOfShape(4, 2), websOfShape(8, 0),
-		everyOtherWeb(websOfShape(7, 1), 7), everyOtherWeb(websOfShape(3, 3), 23))
+		everyOther(websOfShape(7, 1), 7), everyOther(websOfShape(3, 3), 23))
 	for size := 6; size <= maxWeb; size += 2 {
 		for forks := range size {
 			for seed := range 40 {

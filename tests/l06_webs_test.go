@@ -155,7 +155,7 @@ func TestResolutionsDoNotDependOnNumbersOfEdges(t *testing.T) {
 
 // TestForksReadAround begins forks at another one of their numbers, which changes no resolution.
 func TestForksReadAround(t *testing.T) {
-	for number, w := range everyOtherWeb(someWebs(), 3) {
+	for number, w := range everyOther(someWebs(), 3) {
 		for k, fork := range w.Forks {
 			// Where an edge stands twice in a fork, it is never read from there.
 			other := copyWeb(w)
