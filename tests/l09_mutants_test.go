@@ -42,17 +42,29 @@ func TestMutantsAreAlike(t *testing.T) {
 	}
 }
 
-// TestMutantsHaveTheSameWeights takes the gl and the so weights of the promise, and the other ones, as
-// all of them are told by the crossings.
+// wantMutantWeights checks that the mutant of a share by a kind has the gl and the so weight of w, as
+// promised, and the other ones, as all of them are told by the crossings.
+func wantMutantWeights(t *testing.T, w, a []int64, kind int64) {
+	t.Helper()
+	mutant := mustMutate(t, w, a, kind)
+	wantSameWeights(t, w, mutant)
+	for _, weigh := range []func(w []int64) ([]int64, int64){impl.GlWeight, impl.SoWeight} {
+		weight, _ := weigh(w)
+		other, code := weigh(mutant)
+		wantWord(t, "weight of "+call("MutateWord", letters(w), a, kind), other, code, weight)
+	}
+}
+
 func TestMutantsHaveTheSameWeights(t *testing.T) {
 	for _, w := range sharedWords(41, 1201) {
 		for number, a := range everyOther(sharesOfAnySize(w), 1+len(w)/3) {
-			mutant := mustMutate(t, w, a, int64(number%len(mutantKinds)))
-			wantSameWeights(t, w, mutant)
-			for _, weigh := range []func(w []int64) ([]int64, int64){impl.GlWeight, impl.SoWeight} {
-				weight, _ := weigh(w)
-				other, code := weigh(mutant)
-				wantWord(t, "weight of "+call("MutateWord", letters(w), a, number%len(mutantKinds)), other, code, weight)
+			wantMutantWeights(t, w, a, int64(number%len(mutantKinds)))
+		}
+	}
+	for _, w := range wordsUpTo(3) {
+		for _, a := range sharesOfAnySize(w) {
+			for _, kind := range mutantKinds {
+				wantMutantWeights(t, w, a, kind)
 			}
 		}
 	}
